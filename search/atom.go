@@ -1,11 +1,11 @@
-package join
+package search
 
 import (
 	"delphi/api"
 	"delphi/relation"
 )
 
-// few bindings ask the set one by one; for more of them all its rows are laid out once.
+// few bindings ask the set one by one; ahead of the next one all its rows are laid out once.
 const few = 16
 
 // key holds what is asked of a row, each number at its own place.
@@ -24,6 +24,8 @@ type atom struct {
 	needs []need
 	twins [][2]int // places with the same new variable
 	fresh []int    // places whose variables are needed behind the atom
+	asks  int      // how many bindings asked, as far as few
+	whole map[key][][]int
 }
 
 func (b *body) atom(place int, c *columns) *atom {
@@ -58,18 +60,19 @@ func (b *body) needed(terms []int, place int) []int {
 	return left
 }
 
-// finder gives a function that tells what a binding is lengthened by, each way once. Without an atom that is nothing, in one way.
-func (a *atom) finder(bindings int) func(binding []int) [][]int {
-	switch {
-	case a == nil:
-		return func([]int) [][]int { return [][]int{nil} }
-	case a.set.Len() == 0:
-		return func([]int) [][]int { return nil }
-	case bindings <= few:
-		return func(binding []int) [][]int { return a.index(a.asked(binding))[a.keyOf(binding)] }
+// tails tells what a binding is lengthened by, each way once. Without an atom that is nothing, in one way.
+func (a *atom) tails(binding []int) [][]int {
+	if a == nil {
+		return [][]int{nil}
 	}
-	index := a.index(a.constants())
-	return func(binding []int) [][]int { return index[a.keyOf(binding)] }
+	if a.asks < few {
+		a.asks++
+		return a.index(a.asked(binding))[a.keyOf(binding)]
+	}
+	if a.whole == nil {
+		a.whole = a.index(a.constants())
+	}
+	return a.whole[a.keyOf(binding)]
 }
 
 // asked gives the row that goes with a binding. The set takes its numbers below 1 for no numbers: what it tells still has to be held against them.
@@ -85,7 +88,7 @@ func (a *atom) asked(binding []int) relation.Row {
 func (a *atom) constants() relation.Row {
 	row := make(relation.Row, a.width)
 	for _, n := range a.needs {
-		if n.from.column == none {
+		if n.from.column == None {
 			row[n.at] = n.from.constant
 		}
 	}

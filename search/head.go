@@ -1,8 +1,6 @@
-package join
+package search
 
 import (
-	"slices"
-
 	"delphi/api"
 	"delphi/relation"
 	"delphi/value"
@@ -15,15 +13,14 @@ type field struct {
 	constant int
 }
 
-// headRows gives the head's rows: every binding of a part with every one of the others. As the parts bind the head's variables and no others, no row comes twice.
-func headRows(head api.Literal, t *value.Table, parts []bindings) []relation.Row {
+// headRows gives the head's rows, at most so many: every binding of a part with every one of the others. As the parts bind the head's variables and no others, no row comes twice.
+func headRows(head api.Literal, t *value.Table, parts []bindings, most int) []relation.Row {
 	fields := fieldsOf(head, t, parts)
 	var rows []relation.Row
 	at := make([]int, len(parts))
-	for more := true; more; more = advance(at, parts) {
+	for more := true; more && len(rows) < most; more = advance(at, parts) {
 		rows = append(rows, rowOf(fields, parts, at))
 	}
-	slices.SortFunc(rows, slices.Compare[relation.Row])
 	return rows
 }
 
@@ -39,7 +36,7 @@ func fieldsOf(head api.Literal, t *value.Table, parts []bindings) []field {
 		if term.Kind == api.TVar {
 			fields[i] = where[term.Name]
 		} else {
-			fields[i] = field{part: none, constant: t.Id(term)}
+			fields[i] = field{part: None, constant: t.Id(term)}
 		}
 	}
 	return fields
@@ -48,7 +45,7 @@ func fieldsOf(head api.Literal, t *value.Table, parts []bindings) []field {
 func rowOf(fields []field, parts []bindings, at []int) relation.Row {
 	row := make(relation.Row, len(fields))
 	for i, f := range fields {
-		if f.part == none {
+		if f.part == None {
 			row[i] = f.constant
 		} else {
 			row[i] = parts[f.part].rows[at[f.part]][f.column]

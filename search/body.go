@@ -1,4 +1,4 @@
-package join
+package search
 
 import (
 	"iter"
@@ -44,6 +44,29 @@ func variables(terms []api.Term) iter.Seq[string] {
 	}
 }
 
+// ask gets the sets. The atom that is asked of Delta, if there is one, is the plan's first.
+func (b *body) ask(q Question) {
+	for place, l := range b.literals {
+		if q.At != None && place == 0 {
+			b.sets[place] = fitting(l, q.Delta)
+		} else if hasPredicate(l.Kind) {
+			b.sets[place] = fitting(l, setOf(q.Store, l.Name))
+		}
+	}
+}
+
+func hasPredicate(kind int) bool { return kind == api.LAtom || kind == api.LNot }
+
+// lacks says whether an atom has no rows at all: then nothing has to be gone through ahead of it.
+func (b *body) lacks() bool {
+	for place, l := range b.literals {
+		if l.Kind == api.LAtom && b.sets[place].Len() == 0 {
+			return true
+		}
+	}
+	return false
+}
+
 // parts gives the literals' places in groups that share no variable. They are gone through one by one, as every binding of one goes with every one of the others.
 func (b *body) parts() [][]int {
 	g := newGroups(len(b.literals))
@@ -59,15 +82,17 @@ func (b *body) parts() [][]int {
 	return g.lists()
 }
 
-// solve gives the head's variables among those of the literals at these places, in all ways in which the literals hold.
-func (b *body) solve(places []int) bindings {
-	found := bindings{rows: [][]int{{}}}
-	for len(places) > 0 && len(found.rows) > 0 {
+// stages gives those of the literals at these places.
+func (b *body) stages(places []int) []stage {
+	var list []stage
+	var vars []string
+	for len(places) > 0 {
 		n := b.stageEnd(places)
-		found = b.stage(found.vars, places[:n]).run(found.rows)
-		places = places[n:]
+		s := b.stage(vars, places[:n])
+		list = append(list, s)
+		vars, places = s.vars, places[n:]
 	}
-	return found
+	return list
 }
 
 // stageEnd tells how many literals are gone through at once: up to the next atom, as those between only test what stands there.

@@ -1,4 +1,4 @@
-package join
+package search
 
 // groups are of places; each place has an elder of its group, or itself, if it is the group's first.
 type groups []int

@@ -1,4 +1,4 @@
-package join
+package search
 
 import (
 	"delphi/api"
@@ -12,6 +12,7 @@ type stage struct {
 	tests []test
 	vars  []string // those that are still needed behind the stage
 	keep  []int    // their columns
+	seen  *memory  // the bindings behind the stage that were there; nil: none can come twice
 }
 
 // columns are the variables that stand in a stage, and where.
@@ -46,31 +47,14 @@ func (b *body) stage(vars []string, places []int) stage {
 			s.keep = append(s.keep, column)
 		}
 	}
+	// Bindings are different ahead of a stage, and lengthened in different ways: only where a column is dropped may two become the same.
+	if len(s.keep) < len(c.names) {
+		s.seen = newMemory()
+	}
 	return s
 }
 
-// run gives the bindings that rows lead to.
-func (s stage) run(rows [][]int) bindings {
-	g := newGatherer(s.vars)
-	find := s.atom.finder(len(rows))
-	var wide []int
-	for _, row := range rows {
-		for _, tail := range find(row) {
-			wide = append(append(wide[:0], row...), tail...)
-			if !s.passes(wide) {
-				continue
-			}
-			g.add(wide, s.keep)
-			// Where nothing is needed any more, one way is as good as many.
-			if len(s.keep) == 0 {
-				return g.found
-			}
-		}
-	}
-	return g.found
-}
-
-func (s stage) passes(binding []int) bool {
+func (s *stage) passes(binding []int) bool {
 	for _, t := range s.tests {
 		if !t.holds(binding) {
 			return false
@@ -89,7 +73,7 @@ func (b *body) test(place int, c *columns) test {
 	switch {
 	case l.Kind == api.LNot:
 		return b.absence(place, c)
-	case isComparison(l):
+	case IsComparison(l):
 		return comparison{kind: l.Kind, left: sideOf(l.Args[0], c), right: sideOf(l.Args[1], c), table: b.table}
 	}
 	return never{}
@@ -133,7 +117,7 @@ type comparison struct {
 }
 
 func (c comparison) holds(binding []int) bool {
-	return compare(c.kind, c.left.term(binding, c.table), c.right.term(binding, c.table))
+	return Compare(c.kind, c.left.term(binding, c.table), c.right.term(binding, c.table))
 }
 
 // side is a constant, or the variable of a column.
@@ -144,13 +128,13 @@ type side struct {
 
 func sideOf(term api.Term, c *columns) side {
 	if term.Kind != api.TVar {
-		return side{column: none, constant: term}
+		return side{column: None, constant: term}
 	}
 	return side{column: c.at[term.Name]}
 }
 
 func (s side) term(binding []int, t *value.Table) api.Term {
-	if s.column == none {
+	if s.column == None {
 		return s.constant
 	}
 	return t.Term(binding[s.column])
@@ -164,13 +148,13 @@ type source struct {
 
 func (b *body) source(term api.Term, c *columns) source {
 	if term.Kind != api.TVar {
-		return source{column: none, constant: b.table.Id(term)}
+		return source{column: None, constant: b.table.Id(term)}
 	}
 	return source{column: c.at[term.Name]}
 }
 
 func (s source) number(binding []int) int {
-	if s.column == none {
+	if s.column == None {
 		return s.constant
 	}
 	return binding[s.column]
