@@ -41,6 +41,16 @@ func newNaive(l []api.Rule, base []api.Fact) *naive {
 	return n
 }
 
+func compareTerms(a, b api.Term) int {
+	switch {
+	case value.Less(a, b):
+		return -1
+	case value.Less(b, a):
+		return 1
+	}
+	return 0
+}
+
 func under(l api.Literal, row map[string]api.Term) api.Fact {
 	f := api.Fact{Name: l.Name}
 	for _, x := range l.Args {
