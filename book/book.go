@@ -52,13 +52,13 @@ func (b Book) Len() int {
 // Has says whether a fact is there.
 func (b Book) Has(f api.Fact) bool {
 	facts := b[f.Name]
-	at, _ := slices.BinarySearchFunc(facts, f, compareFacts)
+	at, _ := slices.BinarySearchFunc(facts, f, Compare)
 	// A term that may not be stands nowhere in the order: it may seem to stand where another one does.
 	return at < len(facts) && slices.EqualFunc(facts[at].Args, f.Args, value.Eq)
 }
 
-// compareFacts orders the facts of one predicate.
-func compareFacts(a, b api.Fact) int {
+// Compare orders the facts of one predicate.
+func Compare(a, b api.Fact) int {
 	return slices.CompareFunc(a.Args, b.Args, compareTerms)
 }
 
@@ -88,7 +88,7 @@ func (b *Book) Write(name string, rows *relation.Set, t *value.Table) {
 		facts = append(facts, factOf(own, r, t))
 	}
 	// The table's numbers say nothing of the order, for they are as constants came.
-	slices.SortFunc(facts, compareFacts)
+	slices.SortFunc(facts, Compare)
 	(*b)[own] = facts
 }
 
